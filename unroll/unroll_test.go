@@ -9,6 +9,7 @@ import (
 	"straggle/api"
 	"straggle/check"
 	"straggle/parse"
+	"straggle/sample"
 	"straggle/tree"
 )
 
@@ -24,15 +25,6 @@ func read(t *testing.T, text string) api.Pattern {
 	}
 	return p
 }
-
-// times is a positive step that comes from least to most times.
-func times(least, most int) api.Step { return api.Step{Min: least, Max: most} }
-
-// not is a negative step.
-func not() api.Step { return api.Step{Not: true, Min: 1, Max: 1} }
-
-// pattern is one of these steps.
-func pattern(steps ...api.Step) api.Pattern { return api.Pattern{Steps: steps, Window: 50} }
 
 // byWords are the rows of a pattern by the chapter's words: how often each step comes is counted up like one number's digits, the first step's ahead.
 func byWords(p api.Pattern) [][]int {
@@ -254,49 +246,6 @@ func beside(row []int) [][]int {
 	return append(l, backwards, slices.Concat(row, row))
 }
 
-// shapes are all patterns that may be, as to how often steps come: of up to six steps, each of them negative, or positive with each Min and Max.
-func shapes() []api.Pattern {
-	var l []api.Pattern
-	kinds := []api.Step{not(), times(1, 1), times(1, 2), times(1, 3), times(2, 2), times(2, 3), times(3, 3)}
-	var further func(steps []api.Step, room int)
-	further = func(steps []api.Step, room int) {
-		if len(steps) > 0 {
-			l = append(l, pattern(slices.Clone(steps)...))
-		}
-		for _, s := range kinds {
-			if len(steps) == 6 || s.Not && len(steps) == 0 || !s.Not && s.Max > room {
-				continue
-			}
-			left := room
-			if !s.Not {
-				left -= s.Max
-			}
-			further(append(slices.Clone(steps), s), left)
-		}
-	}
-	further(nil, 4)
-	return l
-}
-
-// wrong are patterns that may not be: by each of check's rules, and such as may not be written.
-func wrong(t *testing.T) []api.Pattern {
-	t.Helper()
-	l := []api.Pattern{
-		{}, {Window: 5}, {Steps: []api.Step{}}, {Steps: make([]api.Step, 0, 9), Window: 7}, {Steps: make([]api.Step, 1)}, {Steps: make([]api.Step, 27)}, {Steps: slices.Repeat([]api.Step{times(1, 1)}, 100000)},
-		{Steps: []api.Step{times(1, 1)}, Window: -1}, {Steps: []api.Step{times(1, 1)}, Window: 1<<40 + 1}, {Steps: []api.Step{{Kind: -1, Min: 1, Max: 1}}},
-		pattern(times(-1, 1)), pattern(times(1, -1)), pattern(times(math.MinInt, math.MaxInt)), pattern(times(1, math.MaxInt)), pattern(times(math.MaxInt, math.MaxInt)), pattern(times(1, 1<<40)), pattern(times(1, 1), times(1, 1<<40)),
-		pattern(times(1, 1), times(1, math.MaxInt), times(1, math.MaxInt)), pattern(times(1, 1<<32+1)), pattern(times(1<<32+1, 1<<32+1)), pattern(api.Step{Min: 1, Max: 1, Cmps: make([]api.Cmp, 1)}),
-	}
-	for _, text := range []string{
-		"0a;1b;2c;3d;!4e;!5f;!0g within 5", "0a within 1073741825", "!0a within 5", "!0a;1b within 5", "!0a;!1b within 5", "6a within 5", "0a;6b within 5", "0a;!9b within 5", "0a;!1b{0,1} within 5", "0a;!1b{1,2};2c within 5", "0a;!1b{0,0} within 5",
-		"0a,!1b within 5", "0a;!1b,2c within 5", "0a{0,1} within 5", "0a{0,0} within 5", "0a;1b{2,1} within 5", "0a{1,4} within 5", "0a{4,4} within 5", "0a{1,3};1b{1,2} within 5", "0a{1,2};1b{1,2};2c within 5", "0a;0b;0c;0d;0e within 5",
-		"0a[1=1&1=1&1=1&1=1&1=1] within 5", "0a[t(b)>5];1b within 5", "0a;!1b;2c[t(b)>5] within 5", "0a{1,2};2b[t(a)>5] within 5",
-	} {
-		l = append(l, read(t, text))
-	}
-	return l
-}
-
 // P13.1, P13.2: patterns written out, their rows, what guards each place of their last row, and what stands at their end.
 func TestGiven(t *testing.T) {
 	for _, c := range []struct {
@@ -385,7 +334,7 @@ func TestNone(t *testing.T) {
 
 // P13.1, P13.2: a pattern that may not be has no row, and nothing guards or stands at the end, whatever row comes beside it.
 func TestWrong(t *testing.T) {
-	for _, p := range wrong(t) {
+	for _, p := range sample.Wrong() {
 		if check.Right(p) {
 			t.Fatalf("%.300v may be", p)
 		}
@@ -410,11 +359,7 @@ func TestWrong(t *testing.T) {
 
 // P13.1 to P13.3: all patterns that may be, as to how often steps come, and all rows of up to five numbers from -1 to one beyond their steps.
 func TestAll(t *testing.T) {
-	all := shapes()
-	if len(all) != 416 {
-		t.Fatalf("%d shapes", len(all))
-	}
-	for _, p := range all {
+	for _, p := range sample.Shapes() {
 		rows := promised(t, p)
 		found := 0
 		n := len(p.Steps) + 2
@@ -452,7 +397,7 @@ func TestAll(t *testing.T) {
 
 // P13.1, P13.2: how often steps come tells all; their kinds, whether they are strict, what they ask and the window make no difference.
 func TestElse(t *testing.T) {
-	for i, p := range shapes() {
+	for i, p := range sample.Shapes() {
 		rows, after := Rows(p), After(p)
 		p.Window = i << 20
 		for at := range p.Steps {
@@ -521,16 +466,16 @@ func made(data []byte) (api.Pattern, []int) {
 	for i := range min(n, len(data)) {
 		b := data[i]
 		// Most are such as may be: rarely another step comes.
-		s := times(1, 1)
+		s := sample.Times(1, 1)
 		switch b >> 3 % 16 {
 		case 0, 1, 2, 3, 4:
-			s = not()
+			s = sample.Not()
 		case 5, 6:
-			s = times(1, 2)
+			s = sample.Times(1, 2)
 		case 7:
-			s = times(int(b)%5, 3)
+			s = sample.Times(int(b)%5, 3)
 		case 8:
-			s = times(2, 2)
+			s = sample.Times(2, 2)
 		case 9:
 			s.Strict = true
 		case 10:
