@@ -7,6 +7,7 @@ import (
 	"testing"
 
 	"straggle/api"
+	"straggle/sample"
 )
 
 const (
@@ -15,62 +16,15 @@ const (
 	edge  = api.MaxCoord
 )
 
-// minus0 is -0: a constant cannot be.
-var minus0 = math.Copysign(0, -1)
-
-// field is one of an event's numbers: where it stands, and the greatest that it may be.
-type field struct {
-	name string
-	of   func(e *api.Event) *int
-	most int
-}
-
-func fields() []field {
-	return []field{
-		{"Ts", func(e *api.Event) *int { return &e.Ts }, 1 << 40},
-		{"Src", func(e *api.Event) *int { return &e.Src }, 3},
-		{"Seq", func(e *api.Event) *int { return &e.Seq }, 1 << 20},
-		{"Kind", func(e *api.Event) *int { return &e.Kind }, 5},
-	}
-}
-
-// with is e with another number in that field.
-func with(e api.Event, f field, n int) api.Event {
-	*f.of(&e) = n
-	return e
-}
-
-// rights are events that may be: ordinary ones, and all numbers at their least and their greatest.
-func rights() []api.Event {
-	return []api.Event{
-		{},
-		{Ts: 5, Src: 1, Seq: 9, Kind: 2, At: 3 - 4i},
-		{Ts: 1 << 40, Src: 3, Seq: 1 << 20, Kind: 5, At: edge - edge*1i},
-		{Ts: 1<<40 - 1, Src: 2, Seq: 1<<20 - 1, Kind: 4, At: -edge + edge*1i},
-		{Ts: 1 << 40, At: complex(minus0, minus0)},
-		{Seq: 1 << 20, At: complex(0, minus0)},
-		{Src: 3, At: complex(minus0, 7)},
-		{Kind: 5, At: edge},
-	}
-}
-
-// wrongParts are parts that no point may have.
-func wrongParts() []float64 {
-	return []float64{
-		edge + 1, -edge - 1, math.Nextafter(edge, math.Inf(1)), math.Nextafter(-edge, math.Inf(-1)), 0.5, -0.5, edge - 0.5,
-		math.SmallestNonzeroFloat64, 1 << 40, 1 << 63, 1e300, math.Inf(1), math.Inf(-1), math.NaN(),
-	}
-}
-
 // P3.1: events that may be, each number at its edges and between.
 func TestRight(t *testing.T) {
-	for _, e := range rights() {
+	for _, e := range sample.Events() {
 		if !Right(e) {
 			t.Errorf("%+v is not right", e)
 		}
-		for _, f := range fields() {
-			for _, n := range []int{0, 1, f.most / 2, f.most - 1, f.most} {
-				if d := with(e, f, n); !Right(d) {
+		for _, f := range sample.Fields() {
+			for _, n := range []int{0, 1, f.Most / 2, f.Most - 1, f.Most} {
+				if d := sample.With(e, f, n); !Right(d) {
 					t.Errorf("%+v is not right", d)
 				}
 			}
@@ -80,13 +34,11 @@ func TestRight(t *testing.T) {
 
 // P3.1: one number beyond its edges, all else being right; and all of them.
 func TestRightWrongNumber(t *testing.T) {
-	for _, e := range rights() {
-		for _, f := range fields() {
-			for _, n := range []int{
-				-1, -2, f.most + 1, f.most + 2, -f.most, -1 << 40, 1<<40 + 1, 1 << 41, 1<<40 + 1<<32, 1 << 62, most, least, least + 1,
-			} {
-				if d := with(e, f, n); Right(d) {
-					t.Errorf("%s %d: %+v is right", f.name, n, d)
+	for _, e := range sample.Events() {
+		for _, f := range sample.Fields() {
+			for _, n := range sample.Beyond(f) {
+				if d := sample.With(e, f, n); Right(d) {
+					t.Errorf("%s %d: %+v is right", f.Name, n, d)
 				}
 			}
 		}
@@ -102,9 +54,9 @@ func TestRightWrongNumber(t *testing.T) {
 
 // P3.1: points that may not be, for the sake of either part.
 func TestRightWrongPoint(t *testing.T) {
-	for _, e := range rights() {
-		for _, p := range wrongParts() {
-			for _, q := range []float64{0, minus0, 1, edge, -edge, p} {
+	for _, e := range sample.Events() {
+		for _, p := range sample.WrongParts() {
+			for _, q := range []float64{0, sample.Minus0(), 1, edge, -edge, p} {
 				for _, at := range []complex128{complex(p, q), complex(q, p)} {
 					e.At = at
 					if Right(e) {
@@ -116,23 +68,12 @@ func TestRightWrongPoint(t *testing.T) {
 	}
 }
 
-// strange are events of all sorts, most of which may not be.
-func strange() []api.Event {
-	l := rights()
-	for _, n := range []int{-1, 1, 1 << 33, most, least} {
-		for _, f := range fields() {
-			l = append(l, with(api.Event{Ts: 7, At: 1i}, f, n), with(api.Event{Src: most, Seq: least, At: complex(math.NaN(), 0)}, f, n))
-		}
-	}
-	return l
-}
-
 // P3.1: a key is Ts, Src, Seq in this order, of any event; nothing else is in it.
 func TestKey(t *testing.T) {
 	if k := Key(api.Event{Ts: 1, Src: 2, Seq: 3, Kind: 4, At: 5 + 6i}); k != [3]int{1, 2, 3} {
 		t.Error(k)
 	}
-	for _, e := range strange() {
+	for _, e := range sample.Strange() {
 		if k := Key(e); k != [3]int{e.Ts, e.Src, e.Seq} {
 			t.Errorf("Key(%+v): %v", e, k)
 		}
@@ -145,14 +86,14 @@ func TestKey(t *testing.T) {
 
 // P3.1: an event is the same as itself, and as none that differs in one number alone, either way about.
 func TestSameNumbers(t *testing.T) {
-	for _, e := range strange() {
+	for _, e := range sample.Strange() {
 		if !Same(e, e) {
 			t.Errorf("%+v is not the same as itself", e)
 		}
-		for _, f := range fields() {
-			n := *f.of(&e)
+		for _, f := range sample.Fields() {
+			n := *f.Of(&e)
 			for _, m := range []int{n + 1, n - 1, n ^ 1<<32, n ^ least, ^n} {
-				if d := with(e, f, m); Same(d, e) || Same(e, d) {
+				if d := sample.With(e, f, m); Same(d, e) || Same(e, d) {
 					t.Errorf("%+v, %+v are the same", d, e)
 				}
 			}
@@ -164,7 +105,7 @@ func TestSameNumbers(t *testing.T) {
 func TestSamePoints(t *testing.T) {
 	// Those of one row are the same, those of two are not.
 	rows := [][]float64{
-		{0, minus0}, {1}, {-1}, {edge}, {edge + 1}, {0.5}, {math.SmallestNonzeroFloat64}, {math.Inf(1)}, {math.Inf(-1)},
+		{0, sample.Minus0()}, {1}, {-1}, {edge}, {edge + 1}, {0.5}, {math.SmallestNonzeroFloat64}, {math.Inf(1)}, {math.Inf(-1)},
 		{math.NaN(), math.Float64frombits(0xfff8000000000123)},
 	}
 	for i, row := range rows {
@@ -218,18 +159,13 @@ func TestCmp(t *testing.T) {
 	}
 }
 
-// ahead is the order of keys by the words of the chapter.
-func ahead(a, b api.Event) bool {
-	return a.Ts < b.Ts || a.Ts == b.Ts && (a.Src < b.Src || a.Src == b.Src && a.Seq < b.Seq)
-}
-
 // keyed are events of all keys of some numbers.
 func keyed(numbers ...int) []api.Event {
 	var l []api.Event
 	for _, ts := range numbers {
 		for _, src := range numbers {
 			for _, seq := range numbers {
-				l = append(l, api.Event{Ts: ts, Src: src, Seq: seq, Kind: len(l) % 7, At: complex(float64(len(l)%5), minus0)})
+				l = append(l, api.Event{Ts: ts, Src: src, Seq: seq, Kind: len(l) % 7, At: complex(float64(len(l)%5), sample.Minus0())})
 			}
 		}
 	}
@@ -242,9 +178,9 @@ func TestCmpPairs(t *testing.T) {
 	for _, a := range l {
 		for _, b := range l {
 			want := 0
-			if ahead(a, b) {
+			if sample.Ahead(a, b) {
 				want = -1
-			} else if ahead(b, a) {
+			} else if sample.Ahead(b, a) {
 				want = 1
 			}
 			if n := Cmp(a, b); n != want || Less(a, b) != (want == -1) {
@@ -256,7 +192,7 @@ func TestCmpPairs(t *testing.T) {
 
 // P3.4: of two events one stands ahead, or they have one key; and what stands ahead of one ahead stands ahead.
 func TestOrder(t *testing.T) {
-	l := append(keyed(least, 0, most), strange()...)
+	l := append(keyed(least, 0, most), sample.Strange()...)
 	for _, a := range l {
 		for _, b := range l {
 			told := 0
@@ -280,19 +216,8 @@ func TestOrder(t *testing.T) {
 // sortedByWords is what Sorted has to tell, by the library's stable sorting.
 func sortedByWords(l []api.Event) []api.Event {
 	m := append([]api.Event{}, l...)
-	sort.SliceStable(m, func(i, j int) bool { return ahead(m[i], m[j]) })
+	sort.SliceStable(m, func(i, j int) bool { return sample.Ahead(m[i], m[j]) })
 	return m
-}
-
-// bits tells an event from any other, -0 from 0 and one NaN from another too.
-func bits(e api.Event) [6]uint64 {
-	return [6]uint64{
-		uint64(e.Ts), uint64(e.Src), uint64(e.Seq), uint64(e.Kind), math.Float64bits(real(e.At)), math.Float64bits(imag(e.At)),
-	}
-}
-
-func sameBits(l, m []api.Event) bool {
-	return slices.EqualFunc(l, m, func(a, b api.Event) bool { return bits(a) == bits(b) })
 }
 
 // P3.3: none, one, two.
@@ -303,14 +228,14 @@ func TestSortedFew(t *testing.T) {
 	if l := Sorted([]api.Event{}...); len(l) != 0 {
 		t.Error(l)
 	}
-	for _, e := range strange() {
-		if l := Sorted(e); !sameBits(l, []api.Event{e}) {
+	for _, e := range sample.Strange() {
+		if l := Sorted(e); !sample.SameBits(l, []api.Event{e}) {
 			t.Errorf("Sorted(%+v): %+v", e, l)
 		}
 	}
 	a, b := api.Event{Ts: 5, Src: 0, Seq: 9, Kind: 1}, api.Event{Ts: 5, Src: 1, Seq: 2}
 	for _, l := range [][]api.Event{{a, b}, {b, a}} {
-		if m := Sorted(l...); !sameBits(m, []api.Event{a, b}) {
+		if m := Sorted(l...); !sample.SameBits(m, []api.Event{a, b}) {
 			t.Errorf("Sorted(%+v): %+v", l, m)
 		}
 	}
@@ -321,16 +246,16 @@ func TestSortedOneKey(t *testing.T) {
 	a := api.Event{Ts: 5, Src: 1, Seq: 2, Kind: 3, At: 1 + 2i}
 	for _, b := range []api.Event{
 		{Ts: 5, Src: 1, Seq: 2, Kind: 0, At: 1 + 2i}, {Ts: 5, Src: 1, Seq: 2, Kind: 3, At: -9}, {Ts: 5, Src: 1, Seq: 2, Kind: -1, At: 0.5},
-		{Ts: 5, Src: 1, Seq: 2, Kind: 3, At: complex(math.NaN(), minus0)},
+		{Ts: 5, Src: 1, Seq: 2, Kind: 3, At: complex(math.NaN(), sample.Minus0())},
 	} {
 		for _, l := range [][]api.Event{{a, b}, {b, a}, {a, b, a}, {b, a, b}, {b, a, a, b}, {a, a, b, b, a}} {
-			if m := Sorted(l...); !sameBits(m, l) {
+			if m := Sorted(l...); !sample.SameBits(m, l) {
 				t.Errorf("Sorted(%+v): %+v", l, m)
 			}
 		}
 		early, late := api.Event{Ts: 4, Src: 9, Seq: 9}, api.Event{Ts: 5, Src: 1, Seq: 3}
 		for _, l := range [][]api.Event{{late, a, early, b}, {b, late, a, early}, {a, b, late, early}, {late, early, b, a}} {
-			if m := Sorted(l...); !sameBits(m, sortedByWords(l)) {
+			if m := Sorted(l...); !sample.SameBits(m, sortedByWords(l)) {
 				t.Errorf("Sorted(%+v): %+v", l, m)
 			}
 		}
@@ -343,7 +268,7 @@ func TestSortedAll(t *testing.T) {
 	lists := [][]api.Event{nil}
 	for count := range 7 {
 		for _, l := range lists {
-			if m := Sorted(l...); !sameBits(m, sortedByWords(l)) {
+			if m := Sorted(l...); !sample.SameBits(m, sortedByWords(l)) {
 				t.Fatalf("Sorted(%+v): %+v", l, m)
 			}
 		}
@@ -363,12 +288,12 @@ func TestSortedLengths(t *testing.T) {
 	rising := sortedByWords(keyed(least, -1, 3, most, 0))
 	for n := range 71 {
 		l := rising[:n]
-		if m := Sorted(l...); !sameBits(m, l) {
+		if m := Sorted(l...); !sample.SameBits(m, l) {
 			t.Fatalf("%d sorted ones: %+v", n, m)
 		}
 		back := slices.Clone(l)
 		slices.Reverse(back)
-		if m := Sorted(back...); !sameBits(m, l) {
+		if m := Sorted(back...); !sample.SameBits(m, l) {
 			t.Fatalf("%d, the other way about: %+v", n, m)
 		}
 		mixed := make([]api.Event, n)
@@ -376,7 +301,7 @@ func TestSortedLengths(t *testing.T) {
 			mixed[i] = rising[i*37%71%(n/2+1)]
 			mixed[i].Kind = i
 		}
-		if m := Sorted(mixed...); !sameBits(m, sortedByWords(mixed)) {
+		if m := Sorted(mixed...); !sample.SameBits(m, sortedByWords(mixed)) {
 			t.Fatalf("%d mixed ones: %+v", n, m)
 		}
 	}
@@ -389,22 +314,22 @@ func TestSortedLong(t *testing.T) {
 	for i := range l {
 		l[i] = api.Event{Ts: (n - 1 - i) / 3, Kind: i}
 	}
-	if m := Sorted(l...); !sameBits(m, sortedByWords(l)) {
+	if m := Sorted(l...); !sample.SameBits(m, sortedByWords(l)) {
 		t.Error("a long list is not sorted")
 	}
 }
 
 // P3.4: what is sorted has the same events, each as often, such as may not be too.
 func TestSortedHasAll(t *testing.T) {
-	l := append(strange(), strange()...)
+	l := append(sample.Strange(), sample.Strange()...)
 	l = append(l, keyed(2, 1)...)
 	count := map[[6]uint64]int{}
 	for _, e := range l {
-		count[bits(e)]++
+		count[sample.Bits(e)]++
 	}
 	m := Sorted(l...)
 	for i, e := range m {
-		count[bits(e)]--
+		count[sample.Bits(e)]--
 		if i > 0 && Less(e, m[i-1]) {
 			t.Errorf("%+v stands behind %+v", e, m[i-1])
 		}
@@ -437,16 +362,16 @@ func TestSortedOwn(t *testing.T) {
 			for i := range a[:cap(a)] {
 				a[:cap(a)][i] = other
 			}
-			if !sameBits(room, was) {
+			if !sample.SameBits(room, was) {
 				t.Errorf("%d: what was handed in was changed: %+v", n, room)
 			}
-			if !sameBits(b, want) {
+			if !sample.SameBits(b, want) {
 				t.Errorf("%d: two answers share memory: %+v", n, b)
 			}
 			for i := range room {
 				room[i] = other
 			}
-			if !sameBits(b, want) {
+			if !sample.SameBits(b, want) {
 				t.Errorf("%d: the answer shares memory with what was handed in: %+v", n, b)
 			}
 		}
@@ -463,7 +388,7 @@ func FuzzSorted(f *testing.F) {
 		for ; len(b) > 2; b = b[3:] {
 			l = append(l, api.Event{Ts: int(int8(b[0])), Src: int(b[1]) << 55, Seq: int(b[2] % 3), Kind: len(l)})
 		}
-		if m := Sorted(l...); !sameBits(m, sortedByWords(l)) {
+		if m := Sorted(l...); !sample.SameBits(m, sortedByWords(l)) {
 			t.Errorf("Sorted(%+v): %+v", l, m)
 		}
 	})

@@ -1,4 +1,4 @@
-// Package sample holds patterns that the tests of several layers go through. No layer calls it.
+// Package sample holds patterns and events that the tests of several layers go through. No layer calls it.
 package sample
 
 import (
